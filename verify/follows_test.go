@@ -7,6 +7,7 @@ import (
 	"copyhold/api"
 	"copyhold/arith"
 	"copyhold/code"
+	"copyhold/sample"
 )
 
 // What follows
@@ -229,9 +230,9 @@ func isStuck(m api.Module, in []int64, fuel int) (is bool, steps int) {
 func TestWhatMayBeRunIsNeverStuck(t *testing.T) {
 	runs, steps, refused, stuckOnes := 0, 0, 0, 0
 	for seed := range int64(3000) {
-		r := maker{rand.New(rand.NewSource(seed))}
-		m := r.module()
-		for _, x := range []api.Module{m, r.spoil(m), r.spoil(m), r.spoil(m)} {
+		r := sample.New(rand.New(rand.NewSource(seed)).Intn)
+		m := r.Module()
+		for _, x := range []api.Module{m, r.Spoilt(m), r.Spoilt(m), r.Wild()} {
 			if code.Check(x).Code != 0 {
 				continue
 			}
