@@ -229,15 +229,23 @@ func TestEndFuelIsLookedAtFirst(t *testing.T) {
 
 func TestEndLengthIsLookedAtBeforeTheHandle(t *testing.T) {
 	for _, length := range []string{"-1", "16", "9000000000"} {
-		// an int, a handle whose region is gone, an array, a tuple, no value
+		// an int, a handle whose region is gone, another int, an array, a tuple
 		head := "num " + length + "; new; num 2; array 1 2; tuple 1 (); free 1; "
-		for _, a := range []int{0, 1, 2, 3, 4, 5, 99} {
+		for a := range 5 {
 			m := block(t, 0, head+fmt.Sprintf("array %d 0; ret ();", a))
 			wantEnd(t, m, 3, api.EndLength, 7)
 		}
-		m := block(t, 0, head+"array 0 0; ret ();")
-		m.Funcs[0].Blocks[0].Code[6].A = -1
-		wantEnd(t, m, 3, api.EndLength, 7)
+	}
+}
+
+func TestStuckArrayOfNoValueAheadOfEndLength(t *testing.T) {
+	for _, n := range []int64{-1, 16, 100, math.MinInt64, math.MaxInt64} {
+		for _, a := range []int{-1, 1, 2, 7, 99, math.MinInt, math.MaxInt} {
+			m := block(t, 0, "num 0; array 0 0; ret ();")
+			code := m.Funcs[0].Blocks[0].Code
+			code[0].N, code[1].A = n, a
+			wantStuck(t, m, 1, 2)
+		}
 	}
 }
 

@@ -153,7 +153,7 @@ func (p *plain) asks(c *plainCall, x api.Ins) bool {
 	case api.ISet:
 		return c.living(x.A, api.TTuple) && x.K < len(*c.values[x.A].parts) && c.has(x.B, 0)
 	case api.IArray:
-		return c.has(x.B, api.TInt) && (p.noLength(c, x) || c.living(x.A, api.THandle))
+		return c.has(x.A, 0) && c.has(x.B, api.TInt) && (p.noLength(c, x) || c.living(x.A, api.THandle))
 	case api.ILoad:
 		return c.living(x.A, api.TArray) && c.has(x.B, api.TInt)
 	case api.IStore:

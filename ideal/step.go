@@ -98,11 +98,11 @@ func (m *Machine) openRegion(c *frame) {
 	c.makes(v)
 }
 
-// makeArray looks at the length before it looks at a at all.
+// makeArray looks at the length before it looks at what the value a is; but there must be one.
 func (m *Machine) makeArray(c *frame, a, b int) {
-	n := c.number(b)
+	handle, n := c.value(a), c.number(b)
 	mustOrEnd(n >= 0 && n <= api.MaxArray, api.EndLength)
-	v, full := m.Array(c.value(a), int(n))
+	v, full := m.Array(handle, int(n))
 	mustAnswer(full, api.ErrFull, api.EndMemory)
 	c.makes(v)
 }
